@@ -460,7 +460,7 @@ func TestDeadlineLongPast(t *testing.T) {
 		p.ticks(1)
 		p.at(1, 1, 3+3*i, false)
 	}
-	// The time is 28, and so is the end of the budget: the deadline 27 was the last that was past.
+	// The time is 28, and the deadline 27 is the last one that is past when its period begins.
 	p.ticks(1)
 	p.at(1, 1, 30, false)
 	p.ticks(1)
